@@ -28,12 +28,12 @@ func (m meaning) at(s api.Series) (int, bool) {
 }
 
 // comesTo answers what a right expression comes to. Where windows are read from is not its matter: they are asked for.
-func comesTo(e api.Expr, window func(api.Expr) []api.Cell) (meaning, api.Errno) {
+func comesTo(e api.Expr, window func(api.Expr) (meaning, api.Errno)) (meaning, api.Errno) {
 	switch e.Kind {
 	case api.ENum:
 		return meaning{isNumber: true, cells: []api.Cell{{Value: e.N}}}, api.OK
 	case api.EWindow:
-		return meaning{cells: window(e)}, api.OK
+		return window(e)
 	}
 	first, err := comesTo(e.Kids[0], window)
 	if err != api.OK {
@@ -49,19 +49,22 @@ func comesTo(e api.Expr, window func(api.Expr) []api.Cell) (meaning, api.Errno) 
 	return binOf(first, second, e.Word)
 }
 
-// windowOf answers the cells of an EWindow, of lines that are right: these rise, so their cells do.
-func windowOf(l []api.Line, e api.Expr, time int) []api.Cell {
+// windowOf answers the cells of an EWindow: series rise, so their cells do.
+func windowOf(l []api.Series, e api.Expr, sum func(i int) (api.Sum, api.Errno)) (meaning, api.Errno) {
 	var out []api.Cell
-	for _, x := range l {
-		if !names.Matches(x.Series, e.Matches) {
+	for i, series := range l {
+		if !names.Matches(series, e.Matches) {
 			continue
 		}
-		s := agg.Of(x.Samples[ahead(x.Samples, time-e.Range):ahead(x.Samples, time)])
+		s, err := sum(i)
+		if err != api.OK {
+			return meaning{}, err
+		}
 		if v, ok := agg.Value(e.Word, s); ok {
-			out = append(out, api.Cell{Series: slices.Clone(x.Series), Value: v})
+			out = append(out, api.Cell{Series: slices.Clone(series), Value: v})
 		}
 	}
-	return out
+	return meaning{cells: out}, api.OK
 }
 
 // ahead answers how many samples are ahead of a time.

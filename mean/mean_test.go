@@ -381,3 +381,79 @@ func TestMost(t *testing.T) {
 	askIs(t, l, "all count by a (sum({}[1000])) - 1", 1000, cell("a=aa", 0), cell("a=ab", 0), cell("a=ac", 0), cell("a=ad", 0), cell("a=ae", 0), cell("a=af", 0), cell("a=ag", 0), cell("a=ah", 0))
 	askIs(t, l, "all sum (avg({}[1000]) + count({}[1000]) + rise({}[1000]))", 1000, cell("", api.MaxSeries*(api.MaxValue+api.MaxSamples)))
 }
+
+// F2: windows are asked for in turn, series by series of those that match, from 0 on at the least; what is refused is told in its turn, and nothing behind it is asked for.
+func TestOver(t *testing.T) {
+	l := []api.Series{series("a=a"), series("a=b"), series("b=b")}
+	const great = "(1000000 * 1000000 * 1000000)"
+	for _, c := range []struct {
+		text  string
+		gone  int // the series of which nothing is kept
+		asked [][3]int
+		err   api.Errno
+		want  []api.Cell
+	}{
+		{"1", 0, nil, api.OK, []api.Cell{cell("", 1)}},
+		{"sum({}[10])", -1, [][3]int{{0, 40, 50}, {1, 40, 50}, {2, 40, 50}}, api.OK, []api.Cell{cell("a=b", 1), cell("b=b", 2)}},
+		{"sum({a}[50])", -1, [][3]int{{0, 0, 50}, {1, 0, 50}}, api.OK, []api.Cell{cell("a=b", 1)}},
+		{"sum({b}[51])", -1, [][3]int{{2, 0, 50}}, api.OK, []api.Cell{cell("b=b", 2)}},
+		{"sum({b}[100000])", 1, [][3]int{{2, 0, 50}}, api.OK, []api.Cell{cell("b=b", 2)}},
+		{"sum({}[10])", 1, [][3]int{{0, 40, 50}, {1, 40, 50}}, api.ErrGone, nil},
+		{"sum({zz}[10])", 1, nil, api.OK, nil},
+		{"sum({b}[1]) - sum({a=b}[2])", -1, [][3]int{{2, 49, 50}, {1, 48, 50}}, api.OK, nil},
+		{"all sum (sum({b}[1])) + all sum (sum({a=b}[2]))", -1, [][3]int{{2, 49, 50}, {1, 48, 50}}, api.OK, []api.Cell{cell("", 3)}},
+		{"all sum (sum({b}[1]) + sum({a}[2])) + sum({}[3])", 0, [][3]int{{2, 49, 50}, {0, 48, 50}}, api.ErrGone, nil},
+		{"sum({a}[1]) + " + great, 0, [][3]int{{0, 49, 50}}, api.ErrGone, nil},
+		{great + " + sum({a}[1])", 0, nil, api.ErrRange, nil},
+		{"sum({b}[1]) * " + great + " + sum({a}[1])", 0, [][3]int{{2, 49, 50}}, api.ErrRange, nil},
+	} {
+		var asked [][3]int
+		got, err := Over(l, read(t, c.text), 50, func(i, from, to int) (api.Sum, api.Errno) {
+			asked = append(asked, [3]int{i, from, to})
+			if i == c.gone {
+				return agg.One(77), api.ErrGone
+			}
+			if i == 0 {
+				return api.Sum{}, api.OK
+			}
+			return agg.One(i), api.OK
+		})
+		if err != c.err || !same(got, c.want) || !slices.Equal(asked, c.asked) {
+			t.Errorf("%s, %d gone: %v %v by %v", c.text, c.gone, got, err, asked)
+		}
+	}
+}
+
+// F1, Z1, Z2: what Check refuses is asked of nobody; there may be nobody to ask; cells' labels are new memory.
+func TestOverChecks(t *testing.T) {
+	l := []api.Series{series("a=a")}
+	sum := func(i, from, to int) (api.Sum, api.Errno) { return agg.One(5), api.OK }
+	never := func(i, from, to int) (api.Sum, api.Errno) {
+		t.Error("it is asked")
+		return api.Sum{}, api.OK
+	}
+	window := read(t, "sum({}[5])")
+	for _, c := range []struct {
+		e    api.Expr
+		time int
+		want api.Errno
+	}{
+		{window, -1, api.ErrRange},
+		{window, api.MaxTime + 1, api.ErrRange},
+		{api.Expr{}, 5, api.ErrKind},
+		{api.Expr{Kind: api.EBin, Word: "+", Kids: []api.Expr{window}}, 5, api.ErrMany},
+		{api.Expr{Kind: api.EBin, Word: "+", Kids: []api.Expr{window, {Kind: api.EAll, Word: "sum", Kids: []api.Expr{{Kind: api.ENum}}}}}, 5, api.ErrFit},
+	} {
+		if got, err := Over(l, c.e, c.time, never); err != c.want || len(got) != 0 {
+			t.Errorf("%v at %d: %v %v, not %v", c.e, c.time, got, err, c.want)
+		}
+	}
+	if got, err := Over(l, window, 5, nil); err != api.OK || len(got) != 0 {
+		t.Errorf("nobody is asked: %v %v", got, err)
+	}
+	got, err := Over(l, window, 5, sum)
+	clear(l[0])
+	if err != api.OK || !same(got, []api.Cell{cell("a=a", 5)}) {
+		t.Errorf("%v %v", got, err)
+	}
+}
